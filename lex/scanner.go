@@ -1,7 +1,6 @@
 package lex
 
 import (
-	"slices"
 	"strings"
 
 	"hibernacle/api"
@@ -100,10 +99,10 @@ func (c *scanner) quoted() (int, api.Errno) {
 
 // mark takes a mark, if there is one.
 func (c *scanner) mark() bool {
-	// Backward, because `,` is the beginning of `,@`.
-	for kind, mark := range slices.Backward(marks[:]) {
-		if strings.HasPrefix(c.text[c.at:], mark) {
-			c.take(Token{Kind: Kind(kind)}, len(mark), false)
+	// From the last kind on, because `,` is the beginning of `,@`.
+	for kind := len(marks) - 1; kind >= 0; kind-- {
+		if strings.HasPrefix(c.text[c.at:], marks[kind]) {
+			c.take(Token{Kind: Kind(kind)}, len(marks[kind]), false)
 			return true
 		}
 	}
